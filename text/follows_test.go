@@ -84,11 +84,14 @@ func TestPlainIsWhatNextTells(t *testing.T) {
 		}
 		var l []uint32
 		pieces := 0
+		// Behind all characters a piece without any may come ahead of what the text ends by.
+		between := false
 		p, next, e := Next(b, table, at)
 		for ; e == api.OK && p.Kind == api.PieceChars && pieces < 100; p, next, e = Next(b, table, at) {
 			l = append(l, p.Chars...)
 			at = next
 			pieces++
+			between = len(p.Chars) == 0
 		}
 		if pieces == 100 {
 			continue
@@ -101,6 +104,14 @@ func TestPlainIsWhatNextTells(t *testing.T) {
 			expectPlain(t, b, table, text, len(l)+1, nil, false, api.ErrNone)
 		default:
 			expectPlain(t, b, table, text, len(l)+1, l, true, api.OK)
+		}
+		switch {
+		case between:
+			expectPlain(t, b, table, text, len(l), l, false, api.OK)
+		case e != api.OK:
+			expectPlain(t, b, table, text, len(l), nil, false, e)
+		default:
+			expectPlain(t, b, table, text, len(l), l, p.Kind == api.PieceEnd, api.OK)
 		}
 		if len(l) > 0 {
 			most := r.Intn(len(l))
@@ -167,6 +178,29 @@ func TestWhatIsNotLookedAt(t *testing.T) {
 		if !m.short {
 			expectPlain(t, append(slices.Clone(k.b), 0, 1, 2, 0xe0), table, text, most, l, whole, e)
 		}
+	}
+}
+
+// What has a part must be there: where memory ends ahead of a byte that is looked at, the text can't be told.
+func TestWhatIsLookedAtMustBeThere(t *testing.T) {
+	r := rand.New(rand.NewSource(12082))
+	whole := map[bool]int{}
+	for range 20000 {
+		k, table, text := someBook(r)
+		k.b[text] = someOf[byte](r, 0xe1, 0xe1, 0xe0, 0xe2)
+		most := someOf(r, 0, 1, 2, 5, 50)
+		m := &model{b: k.b, seen: map[uint32]int{}}
+		_, isWhole, e := m.plain(table, text, most)
+		if m.short {
+			continue
+		}
+		if e == api.OK {
+			whole[isWhole]++
+		}
+		expectPlain(t, k.b[:reach(m.seen)-1], table, text, most, nil, false, api.FatalRead)
+	}
+	if whole[true] < 500 || whole[false] < 500 {
+		t.Error(whole)
 	}
 }
 

@@ -170,18 +170,18 @@ func (m *model) plain(table, addr uint32, most int) (l []uint32, whole bool, e a
 	}
 	row := 0
 	for {
-		p, behind, e := m.next(table, at)
 		if len(l) > most {
 			return l[:most], false, api.OK
 		}
-		if len(l) == most {
-			return l, e == api.OK && p.Kind == 1, api.OK
-		}
+		p, behind, e := m.next(table, at)
 		if e != api.OK {
 			return nil, false, e
 		}
 		if p.Kind == 1 {
 			return l, true, api.OK
+		}
+		if len(l) == most {
+			return l, false, api.OK
 		}
 		if p.Kind == 3 {
 			return nil, false, api.ErrNone

@@ -545,9 +545,18 @@ func TestPlainAndWhatIsWrong(t *testing.T) {
 		for _, most := range []int{5, 6, 99} {
 			expectPlain(t, k.b, table, addr, most, nil, false, e)
 		}
-		// What is wrong is not met, if there are as many characters as asked for ahead of it.
-		for _, most := range []int{4, 3, 2, 1, 0, -1} {
+		// What is wrong is not met, if there are more characters than asked for ahead of it.
+		for _, most := range []int{3, 2, 1, 0, -1} {
 			expectPlain(t, k.b, table, addr, most, abab[:max(most, 0)], false, api.OK)
+		}
+		// With just so many ahead of it the next piece is asked for: a reference is one, though not the end.
+		first := k.bits(way)
+		if e == api.ErrNone {
+			expectPlain(t, k.b, table, addr, 4, abab, false, api.OK)
+			expectPlain(t, k.b, table, first, 0, nil, false, api.OK)
+		} else {
+			expectPlain(t, k.b, table, addr, 4, nil, false, e)
+			expectPlain(t, k.b, table, first, 0, nil, false, e)
 		}
 	}
 	// Of two that are wrong the one ahead.
@@ -583,11 +592,80 @@ func TestJustSoMany(t *testing.T) {
 	expectPlain(t, k.b, table, k.bits("10"+"01"+"00"), 2, ab, true, api.OK)
 	// A piece of which only some characters are asked for.
 	expectPlain(t, k.b, table, k.bits("01"+"01"+"00"), 3, []uint32{'a', 'b', 'a'}, false, api.OK)
-	// Behind the characters memory ends: the end does not come.
-	expectPlain(t, []byte{0xe0, 'a', 'b'}, 0, 0, 2, ab, false, api.OK)
-	expectPlain(t, []byte{0xe0, 'a', 'b'}, 0, 0, 3, nil, false, api.FatalRead)
-	expectPlain(t, []byte{0xe0}, 0, 0, 0, nil, false, api.OK)
-	expectPlain(t, []byte{0xe1}, 0, 0, 0, nil, false, api.OK)
+}
+
+// Whether a text is whole with just so many is told by the next piece: what that lies in must be there.
+func TestJustSoManyWhereMemoryEnds(t *testing.T) {
+	for n := range 5 {
+		x := slices.Repeat([]uint32{'x'}, n)
+		text := append([]byte{0xe0}, bytes.Repeat([]byte{'x'}, n)...)
+		expectPlain(t, append(slices.Clone(text), 0), 0, 0, n, x, true, api.OK)
+		expectPlain(t, append(slices.Clone(text), 'y'), 0, 0, n, x, false, api.OK)
+		expectPlain(t, text, 0, 0, n, nil, false, api.FatalRead)
+		expectPlain(t, text, 0, 0, n+1, nil, false, api.FatalRead)
+		words := slices.Concat([]byte{0xe2, 0, 0, 0}, num(x...))
+		expectPlain(t, append(slices.Clone(words), 0, 0, 0, 0), 0, 0, n, x, true, api.OK)
+		expectPlain(t, append(slices.Clone(words), 0, 0, 0, 1), 0, 0, n, x, false, api.OK)
+		for some := range 4 {
+			expectPlain(t, append(slices.Clone(words), make([]byte, some)...), 0, 0, n, nil, false, api.FatalRead)
+		}
+		for most := range n {
+			expectPlain(t, text, 0, 0, most, x[:most], false, api.OK)
+			expectPlain(t, words, 0, 0, most, x[:most], false, api.OK)
+		}
+	}
+	for _, most := range []int{-1, 0} {
+		expectPlain(t, []byte{0xe0}, 0, 0, most, nil, false, api.FatalRead)
+		expectPlain(t, []byte{0xe2}, 0, 0, most, nil, false, api.FatalRead)
+		expectPlain(t, []byte{0xe1}, 1, 0, most, nil, false, api.FatalRead)
+		// Without a table no byte behind the first one is looked at.
+		expectPlain(t, []byte{0xe1}, 0, 0, most, nil, false, api.FatalText)
+	}
+}
+
+func TestJustSoManyWhereThePackedTextEnds(t *testing.T) {
+	k := newBook()
+	table := k.table(k.node(0, k.bytesNode(1), k.bytesNode(2, 'x')))
+	addr := uint32(len(k.b))
+	for _, n := range []int{0, 8, 16, 24} {
+		x := slices.Repeat([]uint32{'x'}, n)
+		text := slices.Concat(k.b, []byte{0xe1}, bytes.Repeat([]byte{0xff}, n/8))
+		expectPlain(t, append(slices.Clone(text), 0xfe), table, addr, n, x, true, api.OK)
+		expectPlain(t, append(slices.Clone(text), 0x01), table, addr, n, x, false, api.OK)
+		expectPlain(t, text, table, addr, n, nil, false, api.FatalRead)
+		if n > 0 {
+			// The next bit lies in a byte that is there, up to the last one.
+			expectPlain(t, text, table, addr, n-1, x[:n-1], false, api.OK)
+		}
+	}
+}
+
+// The next piece's nodes must be there, too, all of the leaf.
+func TestJustSoManyWhereTheNextLeafEnds(t *testing.T) {
+	for _, leaf := range [][]byte{
+		{1},
+		{2, 'y'},
+		{3, 'y', 'z', 0},
+		append([]byte{4}, num('y')...),
+		append([]byte{5}, num('y', 0)...),
+		append([]byte{8}, num(7)...),
+		append([]byte{9}, num(0)...),
+		append([]byte{10}, num(7, 1, 7)...),
+		append([]byte{11}, num(0, 1, 7)...),
+	} {
+		k := newBook()
+		x := k.bytesNode(2, 'x')
+		addr := k.bits("01")
+		root := k.node(0, x, uint32(len(k.b))+9+12)
+		table := k.table(root)
+		k.lay(leaf)
+		expectPlain(t, k.b, table, addr, 1, []uint32{'x'}, leaf[0] == 1, api.OK)
+		for n := 1; n <= len(leaf); n++ {
+			cut := k.b[:len(k.b)-n]
+			expectPlain(t, cut, table, addr, 1, nil, false, api.FatalRead)
+			expectPlain(t, cut, table, addr, 0, nil, false, api.OK)
+		}
+	}
 }
 
 func TestPiecesWithoutCharacters(t *testing.T) {
